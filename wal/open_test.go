@@ -281,19 +281,51 @@ func TestWhereARunBeganIsAsked(t *testing.T) {
 	}
 }
 
-// P17.2: a run that began ahead of the mark leaves nothing, and what stands ahead of the mark is as it was read.
+// P17.2, P17.3: a run that began ahead of the mark leaves nothing; of what stands ahead of the mark, the row has what is ahead of where that run began, and what is behind that is written as noughts.
 func TestARunThatBeganAheadOfTheMark(t *testing.T) {
 	x := filling(150)
 	l := row(0, x, x, x, x)
-	for began := range int64(301) {
+	for began := range 303 {
 		b := fresh(t, 4)
 		b.put(0, 3, 0, l[0])
-		b.put(1, 4, began, l[1])
+		b.put(1, 4, int64(began), l[1])
 		b.wantOpen(mark(0, 300, 2, 3), mark(0, 300, 2, 3))
 		b.append("new")
 		b.flush()
-		b.wantSector(0, 5, 300, string(l[0][:300])+string(frame("new")))
-		b.wantOpen(mark(0, 0, 0, 0), mark(0, 308, 3, 5), x, x, "new")
+		had := min(began, 300)
+		b.wantSector(0, 5, 300, string(l[0][:had])+strings.Repeat("\x00", 300-had)+string(frame("new")))
+		b.wantOpen(mark(0, 300, 2, 3), mark(0, 308, 3, 5), "new")
+		switch had / 150 {
+		case 0:
+			b.wantOpen(api.Mark{}, mark(0, 0, 0, 6))
+		case 1:
+			b.wantOpen(api.Mark{}, mark(0, 150, 1, 5), x)
+		case 2:
+			b.wantOpen(api.Mark{}, mark(0, 308, 3, 5), x, x, "new")
+		}
+	}
+}
+
+// P17.2, P17.3: so it is where a sector farther behind tells of that run, and where the run began ahead of the row.
+func TestARunThatBeganAheadOfTheRow(t *testing.T) {
+	x := filling(150)
+	l := row(0, x, x, x, x, x, x, x, x, x, x) // more than three sectors
+	const begin = 9 * 482
+	for _, c := range []struct {
+		began int64
+		had   int
+	}{{0, 0}, {1, 0}, {begin - 482, 0}, {begin - 1, 0}, {begin, 0}, {begin + 1, 1}, {begin + 299, 299}, {begin + 300, 300}, {begin + 301, 300}, {begin + 449, 300}} {
+		for many := range 3 { // sectors of the elder run behind the first one
+			b := fresh(t, 5)
+			for i := range many + 1 {
+				b.put(int64(9+i), 3, 0, l[i])
+			}
+			b.put(int64(10+many), 4, c.began, l[1])
+			b.wantOpen(mark(9, 300, 2, 3), mark(9, 300, 2, 3))
+			b.append("new")
+			b.flush()
+			b.wantSector(9, 5, begin+300, string(l[0][:c.had])+strings.Repeat("\x00", 300-c.had)+string(frame("new")))
+		}
 	}
 }
 

@@ -87,7 +87,7 @@ func (p *paper) read(all []told) {
 			break
 		}
 		if q > m.Sector && s.run > least && s.began < q*482 {
-			ends = s.began
+			ends = max(s.began, begin)
 			break
 		}
 		for i := range len(s.data) {
@@ -113,7 +113,7 @@ func (p *paper) read(all []told) {
 		b = b[long:]
 	}
 	for at := range p.row {
-		if at >= p.end {
+		if at >= min(p.end, ends) { // the row may end ahead of the mark's offset
 			delete(p.row, at)
 		}
 	}
@@ -357,6 +357,9 @@ func (x *player) mark() api.Mark {
 // spoil writes sectors to the ring as an elder log might have left them there: some of those of a row of its own.
 func (x *player) spoil() {
 	run, began := x.Int64N(x.p.run+3), max(0, x.p.end+x.Int64N(1000)-700)
+	if m := x.p.first; x.IntN(3) == 0 { // as one that began ahead of what is the log's
+		began = max(0, m.Sector*482+int64(m.Offset)-x.Int64N(600))
+	}
 	var b []byte
 	for range x.IntN(8) {
 		b = append(b, frame(x.text())...)
@@ -397,6 +400,9 @@ func (x *player) act() {
 		x.anew(x.mark())
 	case n < 37:
 		x.spoil()
+		if x.IntN(2) == 0 {
+			x.anew(x.p.first)
+		}
 	default:
 		x.restart()
 	}

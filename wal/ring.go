@@ -74,8 +74,8 @@ func rowFrom(l []sector, m api.Mark) ([]byte, []int64) {
 	for s := range counting(l, m) {
 		n, began := len(runs), s.head[beganAt]
 		if n > 0 && s.head[runAt] > runs[n-1] && began < s.head[seqAt]*api.WalData {
-			// that run wrote anew from there on, and what it wrote ahead of this sector is lost
-			return row[:max(began-m.Sector*api.WalData, int64(m.Offset))], runs
+			// that run wrote anew from there on, and what it wrote ahead of this sector is lost: also what stands there ahead of the place
+			return row[:max(began-m.Sector*api.WalData, 0)], runs
 		}
 		row, runs = append(row, s.data...), append(runs, s.head[runAt])
 	}
